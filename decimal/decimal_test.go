@@ -136,7 +136,7 @@ func TestNearestAtTheEnds(t *testing.T) {
 
 // Each number half-way between two floats, and the least bit to either side of it.
 func TestNearestOfHalves(t *testing.T) {
-	for _, v := range edges() {
+	for i, v := range edges() {
 		if v = math.Abs(v); v > math.MaxFloat64/4 {
 			continue
 		}
@@ -148,6 +148,10 @@ func TestNearestOfHalves(t *testing.T) {
 		digits := strings.Replace(half.FloatString(1075), ".", "", 1)
 		checkNearest(t, digits, -1075)
 		checkNearest(t, digits+"1", -1076)
+		if i%16 == 0 {
+			checkNearest(t, digits+strings.Repeat("0", 900), -1975)
+			checkNearest(t, digits+strings.Repeat("0", 900)+"1", -1976)
+		}
 		n, _ := new(big.Int).SetString(digits, 10)
 		checkNearest(t, n.Sub(n, big.NewInt(1)).String(), -1075)
 	}
@@ -158,6 +162,28 @@ func TestNearestOfManyDigits(t *testing.T) {
 	checkNearest(t, "1"+strings.Repeat("0", 3000), -3000)
 	checkNearest(t, "9007199254740993"+strings.Repeat("0", 900), -900)
 	checkNearest(t, "9007199254740993"+strings.Repeat("0", 900)+"1", -901)
+}
+
+// So many digits are gone over, but not reckoned with: else this would not end.
+func TestNearestOfVeryManyDigits(t *testing.T) {
+	const many = 5000000
+	for _, c := range []struct {
+		digits   string
+		exponent int
+		want     float64
+	}{
+		{"1" + strings.Repeat("0", many), -many, 1},
+		{strings.Repeat("0", many) + "15", -1, 1.5},
+		{strings.Repeat("9", many), -many, 1},
+		{"9007199254740993" + strings.Repeat("0", many), -many, 9007199254740992},
+		{"9007199254740993" + strings.Repeat("0", many) + "1", -many - 1, 9007199254740994},
+		{"1" + strings.Repeat("0", many), 0, math.Inf(1)},
+		{"1" + strings.Repeat("0", many), -2 * many, 0},
+	} {
+		if v := Nearest(c.digits, c.exponent); v != c.want {
+			t.Error(c.digits[:20], c.exponent, v, c.want)
+		}
+	}
 }
 
 func FuzzDecimal(f *testing.F) {

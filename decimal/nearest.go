@@ -19,6 +19,9 @@ const (
 	leastTen    = -324
 )
 
+// enough digits, from the first that is not 0 on, tell on which side of each half between two floats a number lies, since no half has as many.
+const enough = 800
+
 // Nearest answers the float64 that is nearest to the digits (signs from 0 to 9, any number of them) times ten to the exponent, ties to even: 0, if that is too small, +Inf, if it is too large.
 func Nearest(digits string, exponent int) float64 {
 	digits = strings.TrimLeft(digits, "0")
@@ -27,6 +30,9 @@ func Nearest(digits string, exponent int) float64 {
 		return 0
 	case exponent > greatestTen-first:
 		return math.Inf(1)
+	}
+	if len(digits) > enough {
+		digits, exponent = shortened(digits, exponent)
 	}
 	var top natural
 	for i := range len(digits) {
@@ -40,6 +46,15 @@ func Nearest(digits string, exponent int) float64 {
 		bottom.times(10, 0)
 	}
 	return nearestRatio(top, bottom)
+}
+
+// shortened answers a number of fewer digits that is rounded likewise: of those that it leaves out matters only whether they are all 0.
+func shortened(digits string, exponent int) (string, int) {
+	kept := digits[:enough]
+	if strings.Trim(digits[enough:], "0") != "" {
+		kept += "1"
+	}
+	return kept, exponent + len(digits) - len(kept)
 }
 
 // nearestRatio answers the float64 that is nearest to top divided by bottom, which are not 0.
