@@ -8,6 +8,7 @@ import (
 	"strconv"
 	"sync"
 	"testing"
+	"time"
 
 	"tocsin/api"
 )
@@ -115,12 +116,9 @@ func TestP9_8_Joined(t *testing.T) {
 	for range 20 {
 		New(10, 1000).Crowd(mixed(), 8)
 	}
-	// Those that have told that they are done may need a moment to be gone.
-	for range 1000 {
-		if runtime.NumGoroutine() <= before {
-			return
-		}
-		runtime.Gosched()
+	// Those that have told that they are done may need a moment to be gone, on a busy machine a longer one; one that is not joined stays.
+	for n := 0; runtime.NumGoroutine() > before && n < 10000; n++ {
+		time.Sleep(time.Millisecond)
 	}
 	if n := runtime.NumGoroutine(); n > before {
 		t.Error(before, n)

@@ -8,6 +8,7 @@ import (
 	"strings"
 	"sync"
 	"testing"
+	"time"
 	"unicode/utf8"
 
 	"tocsin/api"
@@ -372,8 +373,8 @@ func TestP6_1_ManyEnds(t *testing.T) {
 		}
 	}
 	// One that has told its end may need a moment until it is gone.
-	for n := 0; runtime.NumGoroutine() > before && n < 100000; n++ {
-		runtime.Gosched()
+	for n := 0; runtime.NumGoroutine() > before && n < 10000; n++ {
+		time.Sleep(time.Millisecond)
 	}
 	if after := runtime.NumGoroutine(); after > before {
 		t.Error("goroutines", before, after)
