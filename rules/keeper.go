@@ -5,6 +5,7 @@ import (
 
 	"tocsin/api"
 	"tocsin/labels"
+	"tocsin/spans"
 )
 
 // alert is an alert of a rule: its labels, what it has gone through, its value when it was last told.
@@ -33,7 +34,7 @@ func Restore(r api.Rule, l []api.Active, last int64) (*Keeper, api.Errno) {
 	switch {
 	case Rule(r) != api.OK, r.Record:
 		return nil, api.ErrRule
-	case !within(last, never, api.MaxTime):
+	case !spans.Within(last, never, api.MaxTime):
 		return nil, api.ErrArg
 	}
 	alerts, err := byText(l, func(x api.Active) (alert, error) { return restored(x, last) })
@@ -48,7 +49,7 @@ func (k *Keeper) Step(now int64, v []api.Point) ([]api.Active, [][]api.Label, ap
 	switch {
 	case k == nil:
 		return nil, nil, api.ErrNil
-	case !isTime(now), now <= k.last:
+	case !spans.Time(now), now <= k.last:
 		return nil, nil, api.ErrArg
 	}
 	told, err := byText(v, func(p api.Point) (alert, error) {

@@ -1,6 +1,9 @@
 package rules
 
-import "tocsin/api"
+import (
+	"tocsin/api"
+	"tocsin/spans"
+)
 
 // never stands for the time of what has not been.
 const never = -1
@@ -48,12 +51,12 @@ func (l life) missed(now, keep int64) life {
 // canBe: can a life be this one behind an evaluation at last?
 func (l life) canBe(last int64) bool {
 	switch {
-	case !within(l.since, 0, last):
+	case !spans.Within(l.since, 0, last):
 		return false
 	case l.state == api.SPending:
 		return l == waiting(l.since)
 	case l.state == api.SFiring:
-		return within(l.fired, l.since, last) && (l.gone == never || within(l.gone, l.fired, last))
+		return spans.Within(l.fired, l.since, last) && (l.gone == never || spans.Within(l.gone, l.fired, last))
 	}
 	return false
 }

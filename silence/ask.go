@@ -7,6 +7,7 @@ import (
 
 	"tocsin/api"
 	"tocsin/labels"
+	"tocsin/spans"
 )
 
 // Silent tells the Ids of the silences by which these labels are silent at a time, rising.
@@ -15,7 +16,7 @@ func (s *Store) Silent(now int64, l []api.Label) ([]int64, api.Errno) {
 	switch {
 	case s == nil:
 		return nil, api.ErrNil
-	case !isTime(now):
+	case !spans.Time(now):
 		return nil, api.ErrArg
 	case e != api.OK:
 		return nil, api.ErrLabel
@@ -33,7 +34,7 @@ func (s *Store) Sweep(now, keep int64) (int, api.Errno) {
 	switch {
 	case s == nil:
 		return 0, api.ErrNil
-	case !isTime(now), !within(keep, 0, api.MaxSpan):
+	case !spans.Time(now), !spans.Right(keep):
 		return 0, api.ErrArg
 	}
 	gone := 0

@@ -6,6 +6,7 @@ import (
 	"slices"
 
 	"tocsin/api"
+	"tocsin/spans"
 )
 
 // Open answers the store that comes of records, one after another, or what is wrong of one, and its number.
@@ -111,5 +112,5 @@ func canBe(x api.Silence) (entry, bool) {
 }
 
 func isId(id int64) bool {
-	return within(id, 1, api.MaxTime)
+	return spans.Within(id, 1, api.MaxTime)
 }
