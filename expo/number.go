@@ -2,7 +2,6 @@ package expo
 
 import (
 	"math"
-	"strconv"
 	"strings"
 
 	"tocsin/api"
@@ -13,10 +12,6 @@ const (
 	maxValueText      = 64                 // bytes of a value
 	maxExponentDigits = 4                  // digits of a value's exponent
 	theNaN            = 0x7ff8000000000001 // its bits
-
-	// Numbers with exponents from the one to the other are written without them.
-	leastPlain    = -6
-	greatestPlain = 20
 )
 
 // Float reads a value.
@@ -104,46 +99,5 @@ func allDigits(s string) bool {
 
 // Text answers the shortest text that is read as v.
 func Text(v float64) string {
-	switch {
-	case math.IsNaN(v):
-		return "NaN"
-	case math.IsInf(v, 1):
-		return "+Inf"
-	case math.IsInf(v, -1):
-		return "-Inf"
-	}
-	sign := ""
-	if math.Signbit(v) {
-		sign = "-"
-	}
-	digits, exponent := decimal.Shortest(v)
-	if exponent < leastPlain || exponent > greatestPlain {
-		return sign + scientific(digits, exponent)
-	}
-	return sign + plain(digits, exponent)
-}
-
-// plain answers the number whose first digit stands for ten to the exponent, with a point where one is needed.
-func plain(digits string, exponent int) string {
-	ahead := exponent + 1 // so many digits stand ahead of the point
-	switch {
-	case ahead <= 0:
-		return "0." + strings.Repeat("0", -ahead) + digits
-	case ahead >= len(digits):
-		return digits + strings.Repeat("0", ahead-len(digits))
-	}
-	return digits[:ahead] + "." + digits[ahead:]
-}
-
-// scientific answers the same number as d.ddde+XX.
-func scientific(digits string, exponent int) string {
-	sign := "e+"
-	if exponent < 0 {
-		sign = "e-"
-		exponent = -exponent
-	}
-	if exponent < 10 {
-		sign += "0"
-	}
-	return plain(digits, 0) + sign + strconv.Itoa(exponent)
+	return decimal.Text(v)
 }

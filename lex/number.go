@@ -7,9 +7,6 @@ import (
 	"tocsin/decimal"
 )
 
-// farthest is beyond every exponent that matters, with as many digits ahead of it as a text can have.
-const farthest = 1 << 40
-
 // The form of hexadecimal numbers.
 const (
 	digitBits   = 4    // bits of a digit
@@ -25,7 +22,7 @@ func Number(s string) (float64, api.Errno) {
 	if hexWidth(s) > 0 {
 		return hexValue(s[2:]), api.OK
 	}
-	return decimalValue(s), api.OK
+	return decimal.Read(s), api.OK
 }
 
 // cutNumber answers the number or the duration with which s begins, whichever is longer.
@@ -114,35 +111,6 @@ func hexDigit(r rune) (uint64, bool) {
 		return uint64(r-'A') + 10, true
 	}
 	return 0, false
-}
-
-// decimalValue answers what digits, with perhaps a point and an exponent, say.
-func decimalValue(s string) float64 {
-	exponent := 0
-	if at := strings.IndexAny(s, "eE"); at >= 0 {
-		exponent = exponentValue(s[at+1:])
-		s = s[:at]
-	}
-	ahead, behind, _ := strings.Cut(s, ".")
-	return decimal.Nearest(ahead+behind, exponent-len(behind))
-}
-
-// exponentValue answers what a sign, perhaps, and digits say, but nothing beyond farthest.
-func exponentValue(s string) int {
-	n, minus := 0, false
-	for _, r := range s {
-		switch r {
-		case '-':
-			minus = true
-		case '+':
-		default:
-			n = min(10*n+int(r-'0'), farthest)
-		}
-	}
-	if minus {
-		return -n
-	}
-	return n
 }
 
 // hexValue answers the whole number that hexadecimal digits say, as the nearest float64, ties to even.
