@@ -1,11 +1,16 @@
-// Package parts reads the parts of a record one after another, as several layers write them: numbers, texts, label sets.
+// Package parts reads the parts of a record one after another, as several layers write them: numbers, floats, texts, label sets.
 package parts
 
 import (
+	"math"
+
 	"tocsin/api"
 	"tocsin/labels"
 	"tocsin/vint"
 )
+
+// floatBytes is how many bytes a float has.
+const floatBytes = 8
 
 // Reader reads the parts of a record. Behind the first fault it reads no more: all is zero.
 type Reader struct {
@@ -40,6 +45,22 @@ func (r *Reader) Count(most uint64) int {
 	}
 	r.at, r.fault = at, e
 	return int(n)
+}
+
+// Float reads the eight bytes of a float's bits, the lowest first.
+func (r *Reader) Float() float64 {
+	if r.fault == api.OK && len(r.b)-r.at < floatBytes {
+		r.fault = api.ErrShort
+	}
+	if r.fault != api.OK {
+		return 0
+	}
+	bits := uint64(0)
+	for i := range floatBytes {
+		bits |= uint64(r.b[r.at+i]) << (8 * i)
+	}
+	r.at += floatBytes
+	return math.Float64frombits(bits)
 }
 
 // Text reads a text of at most so many bytes.
