@@ -459,7 +459,7 @@ func TestLog_FullDisk(t *testing.T) {
 	}
 }
 
-// A configuration whose record is too long for the log: it holds, and so it is told; the record of its alerts does not go in ahead of another one's.
+// A configuration whose record is too long for the log: it holds, and so it is told; the record of its alerts goes in all the same.
 func TestLog_LongConfig(t *testing.T) {
 	for size := 65531; size <= 65536; size++ {
 		text := longConfig(size)
@@ -474,7 +474,7 @@ func TestLog_LongConfig(t *testing.T) {
 			continue
 		}
 		says(t, m, post("/reload", text), 503, `{"error":4}`)
-		if got, at := m.Config(); !config.Same(got, c) || at != 0 || kinds(t, m) != "344" {
+		if got, at := m.Config(); !config.Same(got, c) || at != 0 || kinds(t, m) != "3444" {
 			t.Error(size, at, kinds(t, m))
 		}
 		// Its evaluations are those of other groups than the log has: behind a crash they play no part.
@@ -492,6 +492,50 @@ func TestLog_LongConfig(t *testing.T) {
 			t.Error(m.Active())
 		}
 	}
+}
+
+// P29.1: behind a reload the log is synced, whichever of its records is refused: no crash takes what lies there by then.
+func TestReload_SyncedThoughRefused(t *testing.T) {
+	many := func(m *Machine) {
+		for i := range 2 {
+			var b strings.Builder
+			for k := range 150 {
+				fmt.Fprintf(&b, "m{a=\"%s\",n=\"%d\"} 1\n", strings.Repeat("a", 250), 1000*i+k)
+			}
+			wrote(t, m, b.String())
+		}
+	}
+	const text = "receiver team\ngroup g every 1s\nalert \"A\" for 5s expr m > 0\nrecord x expr 1\nroute receiver team\n"
+	for i, test := range []struct {
+		ahead   func(m *Machine)
+		text    func(m *Machine) string
+		kinds   string // what the crash leaves in the log
+		groups  int
+		pending int
+	}{
+		// Neither record goes in: what the tick has recorded lasts.
+		{func(m *Machine) { many(m); ticks(t, m, 1) }, longSame, "34" + strings.Repeat("1", 301), 1, 0},
+		// The configuration's does not: that of the alerts lasts, too.
+		{func(m *Machine) { wrote(t, m, "m 1\n"); ticks(t, m, 1) }, longSame, "341144", 1, 1},
+		// That of the alerts does not: the configuration lasts.
+		{func(m *Machine) { many(m); ticks(t, m, 1) }, func(*Machine) string { return text + "group h every 1s\nalert \"B\" expr nope\n" }, "34" + strings.Repeat("1", 301) + "3", 2, 0},
+	} {
+		m := loaded(t, text)
+		test.ahead(m)
+		says(t, m, post("/reload", test.text(m)), 503, `{"error":4}`)
+		did(t, m, crash())
+		if got := kinds(t, m); got != test.kinds {
+			t.Error(i, got)
+		}
+		if c, _ := m.Config(); len(c.Groups) != test.groups || len(m.Active()) != test.pending {
+			t.Error(i, len(c.Groups), m.Active())
+		}
+	}
+}
+
+// longSame answers the configuration of a machine with so many routes more that the log refuses its record.
+func longSame(m *Machine) string {
+	return longer(m, 65536)
 }
 
 // A configuration that the log takes, but not the alerts that it goes on with: that is told, and, where a crash keeps it, it begins without them.

@@ -35,6 +35,9 @@ type entry struct {
 	redo  func(x *model)
 }
 
+// frame: how many bytes the log has of it.
+func (r entry) frame() int { return len(uvarint(len(r.bytes))) + 4 + len(r.bytes) }
+
 // modelGroup is how far a group has come.
 type modelGroup struct {
 	last    int64
@@ -100,9 +103,18 @@ func (x *model) empty() {
 	x.sender = notify.New()
 }
 
-func (x *model) append(l ...entry) {
-	x.log = append(x.log, l...)
-	x.there = true
+// append lays records into the log, and tells the error of the first that it refuses.
+func (x *model) append(l ...entry) api.Errno {
+	first := api.OK
+	for _, r := range l {
+		if len(r.bytes) > 65536 {
+			first = api.ErrSize
+			continue
+		}
+		x.log = append(x.log, r)
+		x.there = true
+	}
+	return first
 }
 func (x *model) sync() { x.synced = len(x.log) }
 
@@ -347,7 +359,7 @@ func (x *model) step(e api.Entry) ([]api.Out, api.Errno) {
 func (x *model) crash(kept int) {
 	stays := x.synced
 	for _, r := range x.log[x.synced:] {
-		kept -= len(uvarint(len(r.bytes))) + 4 + len(r.bytes)
+		kept -= r.frame()
 		if kept < 0 {
 			break
 		}
@@ -453,19 +465,30 @@ func (x *model) evaluate(r api.Rule, k *rules.Keeper) {
 }
 
 func (x *model) checkpoint() {
+	blocks := x.blocks
 	if len(x.head) > 0 {
-		x.blocks = append(slices.Clone(x.blocks), x.inHead())
-		x.head = map[string]api.Series{}
+		blocks = append(slices.Clone(blocks), x.inHead())
 	}
-	x.log = []entry{x.configEntry()}
+	l := []entry{x.configEntry()}
 	for s := range x.quiet.All() {
-		x.append(x.silenceEntry(s))
+		l = append(l, x.silenceEntry(s))
 	}
-	x.append(x.activeEntry())
+	l = append(l, x.activeEntry())
 	for m := range x.marks.All() {
-		x.append(x.markEntry(m))
+		l = append(l, x.markEntry(m))
 	}
-	x.append(x.blocksEntry(x.blocks))
+	l = append(l, x.blocksEntry(blocks))
+	content := uvarint(x.segment+1) + uvarint(len(l))
+	for _, r := range l {
+		if len(r.bytes) > 65536 {
+			return
+		}
+		content += textBytes(r.bytes)
+	}
+	if len(content) > 65536 {
+		return
+	}
+	x.head, x.blocks, x.log = map[string]api.Series{}, blocks, l
 	x.sync()
 	x.segment++
 	x.there = false
@@ -661,8 +684,11 @@ func (x *model) addSilence(body string) (int, string) {
 
 func (x *model) hushed(id int64) (int, string) {
 	s, _ := x.quiet.Get(id)
-	x.append(x.silenceEntry(s))
+	e := x.append(x.silenceEntry(s))
 	x.sync()
+	if e != api.OK {
+		return 503, errorBody(e)
+	}
 	return 200, fmt.Sprintf(`{"id":%d}`, id)
 }
 
@@ -700,8 +726,11 @@ func (x *model) reload(body string) (int, string) {
 		}
 	}
 	x.empty()
-	x.append(x.configEntry(), x.activeEntry())
+	e = x.append(x.configEntry(), x.activeEntry())
 	x.sync()
+	if e != api.OK {
+		return 503, errorBody(e)
+	}
 	return 200, fmt.Sprintf(`{"groups":%d,"routes":%d}`, len(c.Groups), len(c.Routes))
 }
 
@@ -766,6 +795,12 @@ func (b both) same(e api.Entry) {
 		}
 		b.t.Fatalf("%.300q: the log: %q; want %q", fmt.Sprint(e), records, want)
 	}
+	waiting := 0
+	for _, r := range x.log[x.synced:] {
+		waiting += r.frame()
+	}
+	have, synced, _ := m.disk.Size(fmt.Sprintf("data.%08d", x.segment))
+	hold("not synced", have-synced, waiting)
 }
 
 // bitsOf tells series by the bits of their floats.
@@ -822,6 +857,36 @@ func (r source) config() string {
 	return b.String()
 }
 
+// longer answers the configuration that a machine has with more routes, so that config.Print tells it with so many bytes. The groups stay: the alerts of the rules are right ones for the configuration of the log, too, if it refuses this one.
+func longer(m *Machine, size int) string {
+	c, _ := m.Config()
+	left := func() int {
+		text, _, _ := config.Print(c)
+		return size - len(text)
+	}
+	add := func(matchers int) {
+		more := slices.Repeat([]api.Matcher{{Op: api.MEq, Name: "n"}}, matchers)
+		c.Routes = append(c.Routes, api.Route{Receiver: c.Receivers[0], Matchers: more, Interval: 1000, Repeat: 60000})
+		rest := left()
+		for i := range more {
+			n := min(250, rest)
+			more[i].Value = strings.Repeat("x", n)
+			rest -= n
+		}
+	}
+	for left() > 6000 {
+		add(16)
+	}
+	for left() > 500 {
+		add(1)
+	}
+	if left() > 100 {
+		add(2)
+	}
+	text, _, _ := config.Print(c)
+	return text
+}
+
 func (r source) samples(now int64) string {
 	var b strings.Builder
 	for range r.Intn(5) {
@@ -843,6 +908,9 @@ func (r source) entry(m *Machine) api.Entry {
 	case n < 70:
 		return del(fmt.Sprintf("/api/silences?id=%d", r.Intn(6)))
 	case n < 73:
+		if r.Intn(4) == 0 {
+			return post("/reload", longer(m, 65521+r.Intn(16)))
+		}
 		return post("/reload", r.config())
 	case n < 80:
 		return query(r.pick("up", "up == 0", "{job=\"a\"}[1m]", "up+", "\"a\\n\"", "time()", "load / on() up", "foo(1)", "job:up:sum"))

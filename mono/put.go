@@ -1,6 +1,7 @@
 package mono
 
 import (
+	"cmp"
 	"math"
 
 	"tocsin/api"
@@ -24,12 +25,11 @@ func (m *Machine) has(l []api.Label, s api.Sample) bool {
 	return m.head.Check(l, other) == api.ErrTwice
 }
 
-// keep lays records into the log, and makes all of it lasting; or it tells what the log refuses.
+// keep lays records into the log, and makes lasting what lies there. It tells the first thing that the log refuses, and goes on behind it: what lies there already waits for the sync, too.
 func (m *Machine) keep(records ...[]byte) api.Errno {
+	var first api.Errno
 	for _, b := range records {
-		if e := m.log.Append(b); e != api.OK {
-			return e
-		}
+		first = cmp.Or(first, m.log.Append(b))
 	}
-	return m.log.Sync()
+	return cmp.Or(first, m.log.Sync())
 }
